@@ -1,0 +1,60 @@
+package tests
+
+import (
+	"strconv"
+
+	"loop.example/tannoy/impl"
+)
+
+// plainBook is a right book with room on every side: each test bends one thing of it.
+func plainBook() impl.Book {
+	return impl.Book{
+		Stations: []string{"Ash", "Beck Hill", "Cove", "Dell 4"},
+		Trips: []impl.Trip{
+			{Name: "Coast 1", Calls: []impl.Call{
+				{Station: 0, Come: 100, Go: 105, Track: 1},
+				{Station: 1, Come: 120, Go: 125, Track: 2},
+				{Station: 2, Come: 140, Go: 145, Track: 3},
+			}},
+			{Name: "Hill 2", Calls: []impl.Call{
+				{Station: 3, Come: 90, Go: 95, Track: 4},
+				{Station: 1, Come: 110, Go: 115, Track: 5},
+				{Station: 0, Come: 130, Go: 135, Track: 6},
+			}},
+			{Name: "Night 3", Calls: []impl.Call{
+				{Station: 2, Come: 300, Go: 305, Track: 7},
+				{Station: 3, Come: 320, Go: 325, Track: 8},
+			}},
+		},
+	}
+}
+
+// wideBook has that many stations and trips, and that many calls of each trip.
+func wideBook(stations, trips, calls int) impl.Book {
+	b := impl.Book{}
+	for i := range stations {
+		b.Stations = append(b.Stations, "Station "+strconv.Itoa(i))
+	}
+	for i := range trips {
+		b.Trips = append(b.Trips, impl.Trip{Name: "Trip " + strconv.Itoa(i), Calls: runOfCalls(calls)})
+	}
+	return b
+}
+
+func runOfCalls(n int) []impl.Call {
+	var calls []impl.Call
+	for i := range n {
+		calls = append(calls, impl.Call{Station: i, Come: 10 * i, Go: 10*i + 5, Track: 1 + i%20})
+	}
+	return calls
+}
+
+// copyBook keeps nil and empty lists apart, so that a comparison shows every change.
+func copyBook(b impl.Book) impl.Book {
+	c := impl.Book{Stations: append(b.Stations[:0:0], b.Stations...), Trips: append(b.Trips[:0:0], b.Trips...)}
+	for i := range c.Trips {
+		calls := b.Trips[i].Calls
+		c.Trips[i].Calls = append(calls[:0:0], calls...)
+	}
+	return c
+}
