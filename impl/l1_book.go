@@ -85,7 +85,7 @@ func BookOk(b Book) Fault {
 
 // CallAt is the call of a trip at a station, or -1 when there is none or the book is not right.
 func CallAt(b Book, trip, station int) int {
-	if BookOk(b) != (Fault{}) || trip < 0 || trip >= len(b.Trips) {
+	if !isRight(b) || trip < 0 || trip >= len(b.Trips) {
 		return -1
 	}
 	if call, ok := callsByStation(b.Trips[trip].Calls)[station]; ok {
@@ -93,6 +93,8 @@ func CallAt(b Book, trip, station int) int {
 	}
 	return -1
 }
+
+func isRight(b Book) bool { return BookOk(b) == Fault{} }
 
 // checkBook checks in the order of the codes, so that the first error it meets is the first fault.
 func checkBook(b Book) error {

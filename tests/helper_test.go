@@ -58,3 +58,26 @@ func copyBook(b impl.Book) impl.Book {
 	}
 	return c
 }
+
+// planNews is what is known of a book of which nothing was told.
+func planNews(b impl.Book) [][]impl.News {
+	news := make([][]impl.News, len(b.Trips))
+	for i, trip := range b.Trips {
+		for _, call := range trip.Calls {
+			news[i] = append(news[i], impl.News{Track: call.Track})
+		}
+	}
+	return news
+}
+
+func copyNews(news [][]impl.News) [][]impl.News {
+	c := append(news[:0:0], news...)
+	for i, row := range c {
+		c[i] = append(row[:0:0], row...)
+	}
+	return c
+}
+
+func told(tick, op, trip, call, n int) impl.Report {
+	return impl.Report{Tick: tick, Op: op, Trip: trip, Call: call, N: n}
+}
