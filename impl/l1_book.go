@@ -88,7 +88,12 @@ func CallAt(b Book, trip, station int) int {
 	if !isRight(b) || trip < 0 || trip >= len(b.Trips) {
 		return -1
 	}
-	if call, ok := callsByStation(b.Trips[trip].Calls)[station]; ok {
+	return callOf(b.Trips[trip], station)
+}
+
+// callOf is for those who know the book to be right: it is -1 when the trip has no call there.
+func callOf(trip Trip, station int) int {
+	if call, ok := callsByStation(trip.Calls)[station]; ok {
 		return call
 	}
 	return -1
