@@ -1,7 +1,9 @@
 package tests
 
 import (
+	"reflect"
 	"strconv"
+	"testing"
 
 	"loop.example/tannoy/impl"
 )
@@ -80,4 +82,36 @@ func copyNews(news [][]impl.News) [][]impl.News {
 
 func told(tick, op, trip, call, n int) impl.Report {
 	return impl.Report{Tick: tick, Op: op, Trip: trip, Call: call, N: n}
+}
+
+// toldBy is those of the reports that were told up to a tick.
+func toldBy(reports []impl.Report, tick int) []impl.Report {
+	var byThen []impl.Report
+	for _, r := range reports {
+		if r.Tick <= tick {
+			byThen = append(byThen, r)
+		}
+	}
+	return byThen
+}
+
+// saidAgain has one of the reports again just behind itself.
+func saidAgain(reports []impl.Report, at int) []impl.Report {
+	return append(append([]impl.Report(nil), reports[:at+1]...), reports[at:]...)
+}
+
+// checkNotWritten asks of books that are right and that are not, each with reports of every Op, and looks whether these stay as they were.
+func checkNotWritten(t *testing.T, ask func(name string, b impl.Book, reports []impl.Report)) {
+	t.Helper()
+	books := wrongBooks()
+	books["plain"], books["wide"], books["empty"] = plainBook(), wideBook(30, 40, 20), impl.Book{}
+	reports := append(manyReports(3), rightReports(40, 0, 0)...)
+	reports = append(reports, rightReports(41, 1, 1)...)
+	for name, b := range books {
+		oldBook, oldReports := copyBook(b), append([]impl.Report(nil), reports...)
+		ask(name, b, reports)
+		if !reflect.DeepEqual(b, oldBook) || !reflect.DeepEqual(reports, oldReports) {
+			t.Errorf("%s: an argument was written into", name)
+		}
+	}
 }

@@ -752,42 +752,29 @@ func TestKnownHangsOnWhatWasToldByThen(t *testing.T) {
 		reports := randomReports(from, b, 40)
 		at := from.Intn(len(reports))
 		tick := reports[at].Tick
-		var byThen []impl.Report
-		for _, r := range reports {
-			if r.Tick <= tick {
-				byThen = append(byThen, r)
-			}
-		}
+		byThen := toldBy(reports, tick)
 		want := impl.Known(b, byThen, tick)
 		checkKnown(t, "all reports", b, reports, tick, want)
 		checkKnown(t, "the reports by then, asked later", b, byThen, 1000000, want)
-		twice := append(append([]impl.Report(nil), reports[:at+1]...), reports[at:]...)
-		checkKnown(t, "a report twice", b, twice, tick, want)
+		checkKnown(t, "a report twice", b, saidAgain(reports, at), tick, want)
 	}
 }
 
 func TestNewsAreNotWritten(t *testing.T) {
-	b, wide := plainBook(), wideBook(30, 40, 20)
-	books := wrongBooks()
-	books["plain"], books["wide"], books["empty"] = b, wide, impl.Book{}
-	reports := append(manyReports(3), rightReports(40, 0, 0)...)
-	reports = append(reports, rightReports(41, 1, 1)...)
-	for name, b := range books {
-		oldBook, oldReports := copyBook(b), append([]impl.Report(nil), reports...)
+	checkNotWritten(t, func(name string, b impl.Book, reports []impl.Report) {
 		news := planNews(b)
 		oldNews := copyNews(news)
-		first := impl.Known(b, reports, 50)
 		for _, r := range reports {
 			ok, counts := impl.ReportOk(b, r), impl.Counts(b, news, r)
 			if impl.ReportOk(b, r) != ok || impl.Counts(b, news, r) != counts {
 				t.Errorf("%s: %+v asked again, another answer", name, r)
 			}
 		}
-		checkKnown(t, name, b, reports, 50, first)
-		if !reflect.DeepEqual(b, oldBook) || !reflect.DeepEqual(reports, oldReports) || !reflect.DeepEqual(news, oldNews) {
-			t.Errorf("%s: an argument was written into", name)
+		checkKnown(t, name, b, reports, 50, impl.Known(b, reports, 50))
+		if !reflect.DeepEqual(news, oldNews) {
+			t.Errorf("%s: the news were written into", name)
 		}
-	}
+	})
 }
 
 // Writing into all of one row, and behind its end where there is room, shows in no other row, no argument and no later answer.

@@ -548,13 +548,7 @@ func TestBoardsHangOnWhatWasToldByThen(t *testing.T) {
 		reports := randomReports(from, b, 40)
 		at := from.Intn(len(reports))
 		tick := reports[at].Tick
-		byThen := append([]impl.Report(nil), reports[:at+1]...)
-		for _, r := range reports[at+1:] {
-			if r.Tick == tick {
-				byThen = append(byThen, r)
-			}
-		}
-		twice := append(append([]impl.Report(nil), reports[:at+1]...), reports[at:]...)
+		byThen, twice := toldBy(reports, tick), saidAgain(reports, at)
 		other := append(append([]impl.Report(nil), byThen...), told(tick+1, impl.RStop, 0, 0, 0), told(tick+1, impl.RLate, 0, 0, 77))
 		for station := range b.Stations {
 			want := impl.Board(b, byThen, station, tick, 40)
@@ -594,12 +588,7 @@ func TestATripThatIsOff(t *testing.T) {
 }
 
 func TestBoardsAreNotWritten(t *testing.T) {
-	books := wrongBooks()
-	books["plain"], books["wide"], books["empty"] = plainBook(), wideBook(30, 40, 20), impl.Book{}
-	reports := append(manyReports(3), rightReports(40, 0, 0)...)
-	reports = append(reports, rightReports(41, 1, 1)...)
-	for name, b := range books {
-		oldBook, oldReports := copyBook(b), append([]impl.Report(nil), reports...)
+	checkNotWritten(t, func(name string, b impl.Book, reports []impl.Report) {
 		for station := range 4 {
 			rows, text := impl.Board(b, reports, station, 41, 9), impl.Shown(b, reports, station, 41, 9)
 			checkBoard(t, name+", asked again", impl.Board(b, reports, station, 41, 9), rows)
@@ -607,10 +596,7 @@ func TestBoardsAreNotWritten(t *testing.T) {
 				t.Errorf("%s: asked again, another text", name)
 			}
 		}
-		if !reflect.DeepEqual(b, oldBook) || !reflect.DeepEqual(reports, oldReports) {
-			t.Errorf("%s: an argument was written into", name)
-		}
-	}
+	})
 }
 
 // Writing into all of a board, and behind its end where there is room, shows in no argument and no later answer.
